@@ -215,15 +215,25 @@ func addGrowth(level []growth, g growth) []growth {
 	return append(level, g)
 }
 
-// countsUpTo returns for each sum how many parts have it, of which none is greater than most.
-func countsUpTo(most int) [MaxCount + 1]int {
-	counts := [MaxCount + 1]int{1}
-	for part := 1; part <= most; part++ {
-		for sum := part; sum <= MaxCount; sum++ {
-			counts[sum] += counts[sum-part]
-		}
+// counts tells for each sum how many parts have it.
+type counts [MaxCount + 1]int
+
+// withMany returns the counts when a further number may come among the parts, any number of times.
+// Each count is added to when it already counts the parts with this number, so that the number may come again.
+func (c counts) withMany(part int) counts {
+	for left := range MaxCount + 1 - part {
+		c[left+part] += c[left]
 	}
-	return counts
+	return c
+}
+
+// countsUpTo returns for each sum how many parts have it, of which none is greater than most.
+func countsUpTo(most int) counts {
+	c := counts{1}
+	for part := 1; part <= most; part++ {
+		c = c.withMany(part)
+	}
+	return c
 }
 
 // countWithGreatest returns how many parts have a sum and begin with the part greatest.

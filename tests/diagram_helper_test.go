@@ -12,9 +12,10 @@ import (
 
 // The greatest sums are written out here, so that a changed constant of the program is found.
 const (
-	maxSum   = 16
-	maxList  = 12
-	maxCount = 40
+	maxSum        = 16
+	maxList       = 12
+	maxCount      = 40
+	maxPentagonal = 100
 )
 
 // manyParts tells how many parts have each sum from 0 to 40.
@@ -62,7 +63,7 @@ var wrongNumbers = [][]int{
 	{257, 256},
 }
 
-// wrongSums are numbers beyond a limit from 0 up.
+// wrongSums are numbers below 0, and beyond a limit.
 func wrongSums(limit int) []int {
 	return []int{-1, -2, -limit, limit + 1, limit + 2, 1 << 32, 1 << 62, math.MaxInt, math.MinInt, math.MinInt + 1}
 }
@@ -247,4 +248,5 @@ func TestLimits(t *testing.T) {
 	wantNumber(t, "MaxSum", impl.MaxSum, maxSum)
 	wantNumber(t, "MaxList", impl.MaxList, maxList)
 	wantNumber(t, "MaxCount", impl.MaxCount, maxCount)
+	wantNumber(t, "MaxPentagonal", impl.MaxPentagonal, maxPentagonal)
 }

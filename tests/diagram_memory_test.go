@@ -180,14 +180,23 @@ func wantReturn(t *testing.T, c call, in inputs) {
 	c.run(in)
 }
 
-func TestNothingPanicsInDiagrams(t *testing.T) {
-	ints := []int{0, 1, -1, 2, 3, 11, 12, 13, 15, 16, 17, 39, 40, 41, 63, 64, 65, 1 << 31, 1 << 32, 1 << 62, -1 << 62, math.MaxInt - 1, math.MaxInt, math.MinInt, math.MinInt + 1}
+// extremeInts are numbers at the limits and beyond them.
+var extremeInts = []int{0, 1, -1, 2, 3, 11, 12, 13, 15, 16, 17, 39, 40, 41, 63, 64, 65, 99, 100, 101, -99, -100, -101, 1 << 31, 1 << 32, 1 << 62, -1 << 62, math.MaxInt - 1, math.MaxInt, math.MinInt, math.MinInt + 1}
+
+// extremeLists are parts and wrong numbers, and all pairs of extreme numbers.
+func extremeLists() [][]int {
 	lists := slices.Concat(wrongNumbers, [][]int{nil, {}, {1}, {16}, slices.Repeat([]int{1}, 16), {4, 4, 4, 4}, {2, 1}})
-	for _, n := range ints {
-		for _, m := range ints {
+	for _, n := range extremeInts {
+		for _, m := range extremeInts {
 			lists = append(lists, []int{n, m})
 		}
 	}
+	return lists
+}
+
+func TestNothingPanicsInDiagrams(t *testing.T) {
+	ints := extremeInts
+	lists := extremeLists()
 	texts := []string{"", "+", "1", "1+", "x", "\x00", "\xff\xfe", "-9223372036854775809", "99999999999999999999999999"}
 	for i, p := range lists {
 		for j, n := range ints {
