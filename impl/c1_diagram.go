@@ -139,6 +139,13 @@ func (d diagram) unite(e diagram) diagram {
 	return united
 }
 
+func (d diagram) plus(e diagram) diagram {
+	for i, part := range e {
+		d[i] += part
+	}
+	return d
+}
+
 func (d diagram) text() string {
 	var words []string
 	for _, part := range d.list() {
@@ -268,6 +275,19 @@ func areArms(list []int) bool {
 	return true
 }
 
+// aroundDiagonal returns the diagram with the arms and legs, which are with the diagonal no more than MaxSum.
+func aroundDiagonal(arms []int, legs []int) diagram {
+	var d diagram
+	for i, arm := range arms {
+		// The cells to the left of the diagonal are those of the legs ahead.
+		d[i] += 1 + arm
+		for k := range legs[i] {
+			d[i+1+k]++
+		}
+	}
+	return d
+}
+
 // ValidParts reports whether numbers are parts.
 func ValidParts(p []int) bool {
 	_, ok := diagramOf(p)
@@ -367,15 +387,7 @@ func PartsOfFrobenius(arms []int, legs []int) ([]int, bool) {
 	if sum > MaxSum {
 		return nil, false
 	}
-	var d diagram
-	for i, arm := range arms {
-		// The cells to the left of the diagonal are those of the legs ahead.
-		d[i] += 1 + arm
-		for k := range legs[i] {
-			d[i+1+k]++
-		}
-	}
-	return d.list(), true
+	return aroundDiagonal(arms, legs).list(), true
 }
 
 // HooksOf returns the hooks of all cells.
@@ -434,10 +446,7 @@ func AddParts(p []int, q []int) ([]int, bool) {
 	if !ok {
 		return nil, false
 	}
-	for i := range d {
-		d[i] += e[i]
-	}
-	return d.list(), true
+	return d.plus(e).list(), true
 }
 
 // TimesOf returns how often each number comes.

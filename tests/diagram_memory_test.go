@@ -156,15 +156,21 @@ func TestMemoryOfDiagrams(t *testing.T) {
 	}
 }
 
+// wantOwnMemoryOfTwice runs a call with the same memory as both parts.
+func wantOwnMemoryOfTwice(t *testing.T, c call, in inputs) {
+	t.Helper()
+	shared, all := roomy(in.p)
+	want := slices.Clone(all)
+	in.p, in.q = shared, shared
+	if !haveOwnMemory(c.run(in)) || !slices.Equal(all, want) {
+		t.Fatalf("%s of %v twice: memory is shared, and it is now %v", c.name, want, all)
+	}
+}
+
 func TestMemoryOfTwiceTheSameParts(t *testing.T) {
 	for _, c := range diagramCalls {
 		for _, p := range everyParts(maxSum / 2) {
-			shared, all := roomy(p)
-			want := slices.Clone(all)
-			results := c.run(inputs{p: shared, q: shared, n: len(p), k: len(p), s: plainText(p)})
-			if !haveOwnMemory(results) || !slices.Equal(all, want) {
-				t.Fatalf("%s of %v twice: memory is shared, and it is now %v", c.name, want, all)
-			}
+			wantOwnMemoryOfTwice(t, c, inputs{p: p, n: len(p), k: len(p), s: plainText(p)})
 		}
 	}
 }
