@@ -1,6 +1,7 @@
 package impl
 
 import (
+	"iter"
 	"strconv"
 	"strings"
 )
@@ -33,11 +34,17 @@ func diagramOf(p []int) (diagram, bool) {
 	return d, true
 }
 
-// twoDiagrams returns the diagrams of p and q, and whether both are parts with at most MaxSum together.
+// twoDiagrams returns the diagrams of p and q, and whether both are parts.
 func twoDiagrams(p []int, q []int) (diagram, diagram, bool) {
 	d, first := diagramOf(p)
 	e, second := diagramOf(q)
-	return d, e, first && second && d.sum()+e.sum() <= MaxSum
+	return d, e, first && second
+}
+
+// twoThatFit returns the diagrams of p and q, and whether both are parts with at most MaxSum together.
+func twoThatFit(p []int, q []int) (diagram, diagram, bool) {
+	d, e, ok := twoDiagrams(p, q)
+	return d, e, ok && d.sum()+e.sum() <= MaxSum
 }
 
 func (d diagram) sum() int {
@@ -248,21 +255,43 @@ func countWithGreatest(sum int, greatest int) int {
 	return countsUpTo(greatest)[sum-greatest]
 }
 
-// listFrom returns the parts of the first i ones of d and of all that may stand behind them with the sum left.
-func listFrom(d diagram, i int, left int) [][]int {
+// diagramsFrom yields the first i parts of d with all that may stand behind them with the sum left, and reports whether more are wanted.
+func diagramsFrom(d diagram, i int, left int, yield func(d diagram) bool) bool {
 	if left == 0 {
-		return [][]int{d.list()}
+		return yield(d)
 	}
 	most := left
 	if i > 0 {
 		most = min(left, d[i-1])
 	}
-	var all [][]int
 	for part := most; part >= 1; part-- {
 		d[i] = part
-		all = append(all, listFrom(d, i+1, left-part)...)
+		if !diagramsFrom(d, i+1, left-part, yield) {
+			return false
+		}
 	}
-	return all
+	return true
+}
+
+// diagramsWith goes over all diagrams with a sum, the one with the greater part at the first place where two differ first.
+func diagramsWith(sum int) iter.Seq[diagram] {
+	return func(yield func(d diagram) bool) {
+		diagramsFrom(diagram{}, 0, sum, yield)
+	}
+}
+
+// listWhere returns the parts with a sum for which something holds, and nil for a sum of which parts are not listed.
+func listWhere(sum int, holds func(d diagram) bool) [][]int {
+	if sum < 0 || sum > MaxList {
+		return nil
+	}
+	var list [][]int
+	for d := range diagramsWith(sum) {
+		if holds(d) {
+			list = append(list, d.list())
+		}
+	}
+	return list
 }
 
 // areArms reports whether numbers could be the arms of parts, or their legs: then they are few and small enough to be added up.
@@ -305,10 +334,9 @@ func SumOf(p []int) int {
 
 // AllParts returns all parts with a sum.
 func AllParts(n int) [][]int {
-	if n < 0 || n > MaxList {
-		return nil
-	}
-	return listFrom(diagram{}, 0, n)
+	return listWhere(n, func(d diagram) bool {
+		return true
+	})
 }
 
 // CountParts returns how many parts have a sum.
@@ -433,7 +461,7 @@ func AddCell(p []int, i int) ([]int, bool) {
 
 // UniteParts returns all of two parts.
 func UniteParts(p []int, q []int) ([]int, bool) {
-	d, e, ok := twoDiagrams(p, q)
+	d, e, ok := twoThatFit(p, q)
 	if !ok {
 		return nil, false
 	}
@@ -442,7 +470,7 @@ func UniteParts(p []int, q []int) ([]int, bool) {
 
 // AddParts returns the sums of two parts.
 func AddParts(p []int, q []int) ([]int, bool) {
-	d, e, ok := twoDiagrams(p, q)
+	d, e, ok := twoThatFit(p, q)
 	if !ok {
 		return nil, false
 	}
