@@ -280,11 +280,8 @@ func diagramsWith(sum int) iter.Seq[diagram] {
 	}
 }
 
-// listWhere returns the parts with a sum for which something holds, and nil for a sum of which parts are not listed.
-func listWhere(sum int, holds func(d diagram) bool) [][]int {
-	if sum < 0 || sum > MaxList {
-		return nil
-	}
+// partsWhere returns the parts with a sum, of at most MaxSum, for which something holds.
+func partsWhere(sum int, holds func(d diagram) bool) [][]int {
 	var list [][]int
 	for d := range diagramsWith(sum) {
 		if holds(d) {
@@ -292,6 +289,14 @@ func listWhere(sum int, holds func(d diagram) bool) [][]int {
 		}
 	}
 	return list
+}
+
+// listWhere returns the parts with a sum for which something holds, and nil for a sum of which parts are not listed.
+func listWhere(sum int, holds func(d diagram) bool) [][]int {
+	if sum < 0 || sum > MaxList {
+		return nil
+	}
+	return partsWhere(sum, holds)
 }
 
 // areArms reports whether numbers could be the arms of parts, or their legs: then they are few and small enough to be added up.

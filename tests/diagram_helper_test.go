@@ -16,6 +16,8 @@ const (
 	maxList       = 12
 	maxCount      = 40
 	maxPentagonal = 100
+	maxSide       = 4
+	maxSums       = 8
 )
 
 // manyParts tells how many parts have each sum from 0 to 40.
@@ -249,4 +251,6 @@ func TestLimits(t *testing.T) {
 	wantNumber(t, "MaxList", impl.MaxList, maxList)
 	wantNumber(t, "MaxCount", impl.MaxCount, maxCount)
 	wantNumber(t, "MaxPentagonal", impl.MaxPentagonal, maxPentagonal)
+	wantNumber(t, "MaxSide", impl.MaxSide, maxSide)
+	wantNumber(t, "MaxSums", impl.MaxSums, maxSums)
 }

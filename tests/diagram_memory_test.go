@@ -200,25 +200,30 @@ func extremeLists() [][]int {
 	return lists
 }
 
-func TestNothingPanicsInDiagrams(t *testing.T) {
+// wantReturnOfExtremes checks that calls return for extreme numbers and some lists and texts, in many combinations.
+func wantReturnOfExtremes(t *testing.T, calls []call, lists [][]int, texts []string) {
+	t.Helper()
 	ints := extremeInts
-	lists := extremeLists()
-	texts := []string{"", "+", "1", "1+", "x", "\x00", "\xff\xfe", "-9223372036854775809", "99999999999999999999999999"}
 	for i, p := range lists {
 		for j, n := range ints {
 			in := inputs{p: p, q: lists[(i*13+j*29)%len(lists)], n: n, k: ints[(i+j)%len(ints)], s: texts[(i+j)%len(texts)]}
-			for _, c := range diagramCalls {
+			for _, c := range calls {
 				wantReturn(t, c, in)
 			}
 		}
 	}
 	for _, n := range ints {
 		for _, k := range ints {
-			for _, c := range diagramCalls {
-				wantReturn(t, c, inputs{p: []int{3, 2}, q: []int{1}, n: n, k: k})
+			for _, c := range calls {
+				wantReturn(t, c, inputs{p: []int{3, 2}, q: []int{4, 1}, n: n, k: k})
 			}
 		}
 	}
+}
+
+func TestNothingPanicsInDiagrams(t *testing.T) {
+	texts := []string{"", "+", "1", "1+", "x", "\x00", "\xff\xfe", "-9223372036854775809", "99999999999999999999999999"}
+	wantReturnOfExtremes(t, diagramCalls, extremeLists(), texts)
 }
 
 func FuzzParseParts(f *testing.F) {

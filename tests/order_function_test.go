@@ -10,12 +10,12 @@ import (
 	"loop.example/numberparts/impl"
 )
 
-// fieldsOf returns the parts of each of some texts with spaces between them, where - is that of no parts.
+// fieldsOf returns the numbers of each of some texts with spaces between them, where - is that of none.
 func fieldsOf(t *testing.T, texts string) [][]int {
 	t.Helper()
 	var list [][]int
 	for _, s := range strings.Fields(texts) {
-		list = append(list, parse(t, strings.TrimPrefix(s, "-")))
+		list = append(list, numbersOf(t, strings.TrimPrefix(s, "-")))
 	}
 	return list
 }

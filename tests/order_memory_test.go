@@ -61,22 +61,7 @@ func TestMemoryOfSpreads(t *testing.T) {
 }
 
 func TestNothingPanicsInOrders(t *testing.T) {
-	lists := extremeLists()
-	for i, p := range lists {
-		for j, n := range extremeInts {
-			in := inputs{p: p, q: lists[(i*13+j*29)%len(lists)], n: n, k: extremeInts[(i+j)%len(extremeInts)]}
-			for _, c := range orderCalls {
-				wantReturn(t, c, in)
-			}
-		}
-	}
-	for _, n := range extremeInts {
-		for _, k := range extremeInts {
-			for _, c := range orderCalls {
-				wantReturn(t, c, inputs{p: []int{3, 2}, q: []int{4, 1}, n: n, k: k})
-			}
-		}
-	}
+	wantReturnOfExtremes(t, orderCalls, extremeLists(), []string{""})
 }
 
 func TestNothingPanicsInOrdersOfAllParts(t *testing.T) {
