@@ -241,13 +241,18 @@ func (c counts) withMany(part int) counts {
 	return c
 }
 
-// countsUpTo returns for each sum how many parts have it, of which none is greater than most.
-func countsUpTo(most int) counts {
+// countsBy returns the counts when add has let each number from 1 to most come among the parts.
+func countsBy(most int, add func(c counts, part int) counts) counts {
 	c := counts{1}
 	for part := 1; part <= most; part++ {
-		c = c.withMany(part)
+		c = add(c, part)
 	}
 	return c
+}
+
+// countsUpTo returns for each sum how many parts have it, of which none is greater than most.
+func countsUpTo(most int) counts {
+	return countsBy(most, counts.withMany)
 }
 
 // countWithGreatest returns how many parts have a sum and begin with the part greatest.

@@ -18,6 +18,9 @@ const (
 	maxPentagonal = 100
 	maxSide       = 4
 	maxSums       = 8
+	maxMarked     = 8
+	maxPile       = 6
+	maxDesk       = 20
 )
 
 // manyParts tells how many parts have each sum from 0 to 40.
@@ -253,4 +256,7 @@ func TestLimits(t *testing.T) {
 	wantNumber(t, "MaxPentagonal", impl.MaxPentagonal, maxPentagonal)
 	wantNumber(t, "MaxSide", impl.MaxSide, maxSide)
 	wantNumber(t, "MaxSums", impl.MaxSums, maxSums)
+	wantNumber(t, "MaxMarked", impl.MaxMarked, maxMarked)
+	wantNumber(t, "MaxPile", impl.MaxPile, maxPile)
+	wantNumber(t, "MaxDesk", impl.MaxDesk, maxDesk)
 }

@@ -175,15 +175,20 @@ func TestMemoryOfTwiceTheSameParts(t *testing.T) {
 	}
 }
 
-// wantReturn checks that a call returns, whatever its arguments are.
-func wantReturn(t *testing.T, c call, in inputs) {
+// wantNoPanic checks that a function returns, whatever its arguments are.
+func wantNoPanic(t *testing.T, name string, in any, run func()) {
 	t.Helper()
 	defer func() {
 		if r := recover(); r != nil {
-			t.Fatalf("%s of %s: panic: %v", c.name, fmt.Sprintf("%.100v", in), r)
+			t.Fatalf("%s of %s: panic: %v", name, fmt.Sprintf("%.100s", fmt.Sprint(in)), r)
 		}
 	}()
-	c.run(in)
+	run()
+}
+
+func wantReturn(t *testing.T, c call, in inputs) {
+	t.Helper()
+	wantNoPanic(t, c.name, in, func() { c.run(in) })
 }
 
 // extremeInts are numbers at the limits and beyond them.
